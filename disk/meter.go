@@ -5,7 +5,7 @@ import "parterre/api"
 // noFuse is below 0, so that no step burns it down.
 const noFuse = -1
 
-// meter counts the steps, and cuts the power behind the last one that the fuse allows.
+// meter counts the steps, and cuts the power at the first that the fuse doesn't allow.
 type meter struct {
 	fuse  int
 	steps int
