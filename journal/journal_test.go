@@ -56,7 +56,7 @@ func wantSector(t *testing.T, d *disk.Disk, at int, wanted api.Block) {
 
 // P4.2: without a head the number is 0, and nothing is done.
 func TestOpenNew(t *testing.T) {
-	for _, n := range []int{97, 98, 200, 4096} {
+	for _, n := range []int{64, 65, 95, 96, 97, 98, 200, 4096} {
 		d := newDisk(t, n)
 		j := open(t, d)
 		want(t, "number", j.Number(), 0)
@@ -118,11 +118,71 @@ func TestOpenNoHead(t *testing.T) {
 	}
 }
 
-// P4.2: the disk's first error: none there, no power, fewer sectors than the journal has, the power going as it is done again.
+// P4.2: on a disk of fewer sectors than the journal's a head is one over those that there are behind it, up to all of them; what it has for sectors that there aren't isn't done.
+func TestOpenSmall(t *testing.T) {
+	for _, n := range []int{64, 65, 95, 96} {
+		for _, l := range [][]journal.Write{nil, writes(97, 1), writes(97, n-1)} {
+			d := newDisk(t, n)
+			lay(d, journal.Head(9, l...), blocksOf(l)...)
+			steps := d.Steps()
+			want(t, "number", open(t, d).Number(), 9)
+			want(t, "a barrier", d.Steps()-steps, 1)
+			want(t, "opened again", open(t, d).Number(), 9)
+		}
+		there := []journal.Write{write(n-1, 1), write(n, 2)}
+		d := newDisk(t, n)
+		lay(d, journal.Head(9, there...), blocksOf(there)...)
+		steps := d.Steps()
+		want(t, "number", open(t, d).Number(), 9)
+		want(t, "a write and a barrier", d.Steps()-steps, 2)
+		wantSector(t, d, n-1, block(1))
+		d = newDisk(t, n)
+		beyond := writes(97, n)
+		lay(d, journal.Head(9, beyond...), blocksOf(beyond[:n-1])...)
+		steps = d.Steps()
+		want(t, "number of a head over one sector more than there are", open(t, d).Number(), 0)
+		want(t, "steps", d.Steps(), steps)
+	}
+}
+
+// P4.3: on a disk without a sector behind the journal nothing can be committed, and all can be read.
+func TestCommitSmall(t *testing.T) {
+	for _, n := range []int{64, 65, 96, 97} {
+		d := newDisk(t, n)
+		j := open(t, d)
+		for _, at := range []int{-1, 0, 5, n - 1, n, 96, 97, 98} {
+			want(t, "commit", j.Commit(write(at, 1)), api.ErrArg)
+		}
+		want(t, "commit of too many", j.Commit(writes(97, 97)...), api.ErrArg)
+		want(t, "commit of nothing", j.Commit(), api.OK)
+		want(t, "steps", d.Steps(), 0)
+		want(t, "number", j.Number(), 0)
+		d.Write(5, block(5))
+		for at := -1; at <= 97; at++ {
+			b, e := j.Read(at)
+			wanted, we := d.Read(at)
+			want(t, "block", b, wanted)
+			want(t, "read", e, we)
+		}
+		want(t, "lost by", j.Err(), api.OK)
+	}
+}
+
+// P4.2: the disk's first error: none there, no power, the power going as it is done again.
 func TestOpenErrors(t *testing.T) {
 	wantNoJournal(t, nil, api.ErrNil)
-	wantNoJournal(t, newDisk(t, 64), api.ErrArg)
-	wantNoJournal(t, newDisk(t, 96), api.ErrArg)
+	for _, n := range []int{64, 96, 97, 200} {
+		d := newDisk(t, n)
+		d.Fuse(0)
+		d.Barrier()
+		wantNoJournal(t, d, api.ErrPower)
+		d.Crash()
+		want(t, "number", open(t, d).Number(), 0)
+	}
+	small := newDisk(t, 64)
+	lay(small, journal.Head(5))
+	small.Fuse(0)
+	wantNoJournal(t, small, api.ErrPower)
 	d := newDisk(t, 200)
 	l := writes(100, 3)
 	lay(d, journal.Head(5, l...), blocksOf(l)...)
@@ -262,8 +322,6 @@ func TestCommitRefused(t *testing.T) {
 		d.Fuse(-1)
 		want(t, "commit behind it", j.Commit(write(299, 1)), api.OK)
 	}
-	j := open(t, newDisk(t, 97))
-	want(t, "nothing behind the journal", j.Commit(write(97, 1)), api.ErrArg)
 }
 
 // P4.3: 96 sectors are the most, however often each is written.
